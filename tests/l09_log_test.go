@@ -29,8 +29,12 @@ func segAsSaid(gen int, items []impl.Item) string {
 
 // putAsSaid has this text in a segment, in its sectors, and all else as it was.
 func putAsSaid(d impl.Disk, seg, at int, text string) impl.Disk {
+	return putFrom(d, (8+8*seg)*impl.SectorSize+at, text)
+}
+
+// putFrom has this text from so many bytes of the disk on.
+func putFrom(d impl.Disk, from int, text string) impl.Disk {
 	whole := readWhole(d)
-	from := (8+8*seg)*impl.SectorSize + at
 	whole = whole[:from] + text + whole[from+len(text):]
 	out := impl.Disk{}
 	for i := range d.Sectors {
