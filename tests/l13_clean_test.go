@@ -909,6 +909,23 @@ func TestCleanSegOfTheGreatestNumbers(t *testing.T) {
 	}
 }
 
+// Where nothing is gained nothing is cleaned, though it could be.
+func TestCleanStepWithoutAGain(t *testing.T) {
+	items := sizedItems(t, 150)
+	s := storeOf(t, 6, segOf(3, 4, items...), segOf(1, 5))
+	gainsMost(t, "no gain", s, -1, 0, 0)
+	noStep(t, "no gain", s, impl.CodeNo)
+	isCleaned(t, "no gain, but asked for", s, 0, items...)
+	s = storeOf(t, 6, segOf(3, 4, items[0]), segOf(5, 5, items[1:]...), segOf(1, 6))
+	gainsMost(t, "a gain ahead of none", s, 0, 2, 0, 0)
+	got, code := steps(t, "a gain ahead of none", s)
+	if code != 0 || !slices.Equal(got.Freed, []int{3}) {
+		t.Fatalf("a gain ahead of none: %d, %s", code, tellStore(got))
+	}
+	noStep(t, "none is left", got, impl.CodeNo)
+	isCleaned(t, "none is left, but asked for", got, 1, items[1:]...)
+}
+
 // CleanStep cleans the victim, again and again, until nothing is to be gained.
 func TestCleanStepUntilNothingIsGained(t *testing.T) {
 	for _, fix := range []bool{false, true} {
